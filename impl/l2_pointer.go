@@ -210,10 +210,15 @@ func sizeBits(size int) int {
 	return 0
 }
 
+// wordsFor is how many words so many of a size other than SizeMany take, of any count that a pointer may tell.
+func wordsFor(size int, count int) int {
+	return (count*sizeBits(size) + wordBits - 1) / wordBits
+}
+
 // ListWords is how many words so many of a size take.
 func ListWords(size int, count int) int {
 	if !within(size, SizeMany) || !within(count, listEnd) {
 		return -1
 	}
-	return (count*sizeBits(size) + wordBits - 1) / wordBits
+	return wordsFor(size, count)
 }
