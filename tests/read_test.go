@@ -598,6 +598,23 @@ func listsIn(n *impl.Node) []*[]impl.Node {
 	return out
 }
 
+// share says whether two lists within nodes share memory.
+func share(nodes ...*impl.Node) bool {
+	seen := map[*impl.Node]bool{}
+	for _, n := range nodes {
+		for _, list := range listsIn(n) {
+			whole := (*list)[:cap(*list)]
+			for i := range whole {
+				if seen[&whole[i]] {
+					return true
+				}
+				seen[&whole[i]] = true
+			}
+		}
+	}
+	return false
+}
+
 // Promise 15: what is read twice is two nodes, so that who changes one does not change the other.
 func TestWhatIsReadSharesNoMemory(t *testing.T) {
 	r := rand.New(rand.NewSource(29))
@@ -607,16 +624,8 @@ func TestWhatIsReadSharesNoMemory(t *testing.T) {
 		all = append(all, someMessage(r))
 	}
 	for _, segs := range all {
-		n, _ := impl.Read(segs, impl.ReadMax)
-		seen := map[*impl.Node]bool{}
-		for _, list := range listsIn(&n) {
-			whole := (*list)[:cap(*list)]
-			for i := range whole {
-				if seen[&whole[i]] {
-					t.Fatalf("%x: two lists share memory", segs)
-				}
-				seen[&whole[i]] = true
-			}
+		if n, _ := impl.Read(segs, impl.ReadMax); share(&n) {
+			t.Fatalf("%x: two lists share memory", segs)
 		}
 	}
 }
