@@ -32,9 +32,9 @@ func manyNode(items ...impl.Node) impl.Node {
 	return impl.Node{Kind: impl.NodeList, Size: impl.SizeMany, Count: len(items), Items: items}
 }
 
-// times is so many of one node.
-func times(n impl.Node, count int) []impl.Node {
-	out := make([]impl.Node, count)
+// times is so many of one.
+func times[T any](n T, count int) []T {
+	out := make([]T, count)
 	for i := range out {
 		out[i] = n
 	}
