@@ -104,13 +104,18 @@ func wordsOf(text string) iter.Seq[word] {
 	}
 }
 
-// isPlace says whether a number of so many bytes may stand at a byte. It never reaches over the end of a word then.
-func isPlace(at int, size int) bool {
+// isWidth says whether a number may have so many bytes.
+func isWidth(size int) bool {
 	switch size {
 	case 1, 2, 4, 8:
-		return at >= 0 && at <= WordMax*wordBytes && at%size == 0
+		return true
 	}
 	return false
+}
+
+// isPlace says whether a number of so many bytes may stand at a byte. It never reaches over the end of a word then.
+func isPlace(at int, size int) bool {
+	return isWidth(size) && at >= 0 && at <= WordMax*wordBytes && at%size == 0
 }
 
 // fitsBytes says whether a number may stand in so many bytes. In eight any does, as the highest bit is the sign.
